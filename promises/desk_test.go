@@ -1,0 +1,206 @@
+// Package promises: tests of DOC.md's promises, through the calls alone.
+package promises
+
+import (
+	"fmt"
+	"math/rand"
+	"strings"
+	"testing"
+
+	"matrices/api"
+	"matrices/matrices"
+)
+
+const (
+	most     = "281474976710655"      // 2^48 - 1
+	overMost = "281474976710656"      // 2^48
+	bound    = int64(1)<<48 - 1       // most, as a number
+	half     = "16777216"             // 2^24: its square is overMost
+	farLow   = -int(^uint(0)>>1) - 1  // the least int
+	farHigh  = int(^uint(0) >> 1)     // the greatest int
+	reach    = api.MaxHandles*2 + 100 // handles that the small tests can come to
+)
+
+// desk: a store, and what a test does with it.
+type desk struct {
+	t *testing.T
+	s *matrices.Store
+}
+
+func start(t *testing.T) desk { return desk{t, matrices.New()} }
+
+func (d desk) put(text string) int {
+	d.t.Helper()
+	h, e := d.s.Type(text)
+	if e != api.OK {
+		d.t.Fatalf("P3: Type(%q) = %d, %d", text, h, e)
+	}
+	return h
+}
+
+func (d desk) show(h int) string {
+	d.t.Helper()
+	text, e := d.s.Show(h)
+	if e != api.OK {
+		d.t.Fatalf("P4: Show(%d) = %q, %d", h, text, e)
+	}
+	return text
+}
+
+func (d desk) free(h int) {
+	d.t.Helper()
+	if e := d.s.Free(h); e != api.OK {
+		d.t.Fatalf("P4: Free(%d) = %d", h, e)
+	}
+}
+
+func (d desk) times(g int, h int) int {
+	d.t.Helper()
+	k, e := d.s.Times(g, h)
+	if e != api.OK {
+		d.t.Fatalf("P6: Times(%d, %d) = %d, %d", g, h, k, e)
+	}
+	return k
+}
+
+// great: the handle of a 1x1 matrix of 2^48, which no text can give.
+func (d desk) great() int {
+	d.t.Helper()
+	g := d.put("1x1: " + half)
+	k := d.times(g, g)
+	d.free(g)
+	if got := d.show(k); got != "1x1: "+overMost {
+		d.t.Fatalf("P6: 2^24 times 2^24 = %q", got)
+	}
+	return k
+}
+
+// tallGreat: the handle of 2x1: -2^24; -2^48.
+func (d desk) tallGreat() int {
+	d.t.Helper()
+	g, h := d.put("2x1: 1; "+half), d.put("1x1: -"+half)
+	k := d.times(g, h)
+	d.free(g)
+	d.free(h)
+	return k
+}
+
+// fill: types matrices until 24 are held; the handle of the last.
+func (d desk) fill() int {
+	d.t.Helper()
+	last := -1
+	for i := len(d.held()); i < 24; i++ {
+		last = d.put("1x1: 3")
+	}
+	return last
+}
+
+// held: what is held, as "handle text".
+func (d desk) held() []string {
+	out := []string{}
+	for h := -2; h < reach; h++ {
+		if text, e := d.s.Show(h); e == api.OK {
+			out = append(out, fmt.Sprint(h, " ", text))
+		}
+	}
+	return out
+}
+
+// unchanged: runs calls that must change nothing, and looks whether what is
+// held is the same afterwards.
+func (d desk) unchanged(calls func()) {
+	d.t.Helper()
+	before := strings.Join(d.held(), "\n")
+	calls()
+	if after := strings.Join(d.held(), "\n"); after != before {
+		d.t.Errorf("P1: what is held was changed from\n%s\nto\n%s", before, after)
+	}
+}
+
+// The four below: a refusal with the error e is due, and the answer that P1 says.
+
+func (d desk) refuseType(text string, e api.Errno) {
+	d.t.Helper()
+	if h, got := d.s.Type(text); h != -1 || got != e {
+		d.t.Errorf("P3: Type(%.60q) = %d, %d, want -1, %d", text, h, got, e)
+	}
+}
+
+func (d desk) refuseTimes(g int, h int, e api.Errno) {
+	d.t.Helper()
+	if k, got := d.s.Times(g, h); k != -1 || got != e {
+		d.t.Errorf("P5, P6: Times(%d, %d) = %d, %d, want -1, %d", g, h, k, got, e)
+	}
+}
+
+func (d desk) refuseDet(h int, e api.Errno) {
+	d.t.Helper()
+	if text, got := d.s.Det(h); text != "" || got != e {
+		d.t.Errorf("P5, P7: Det(%d) = %q, %d, want nothing, %d", h, text, got, e)
+	}
+}
+
+func (d desk) refuseRank(h int, e api.Errno) {
+	d.t.Helper()
+	if r, got := d.s.Rank(h); r != -1 || got != e {
+		d.t.Errorf("P5, P7: Rank(%d) = %d, %d, want -1, %d", h, r, got, e)
+	}
+}
+
+// write: rows of numbers as text, made without the program.
+func write(rows int, cols int, entries [][]int64) string {
+	lines := []string{}
+	for _, row := range entries {
+		line := ""
+		for _, v := range row {
+			line += fmt.Sprintf(" %d", v)
+		}
+		lines = append(lines, line)
+	}
+	if cols == 0 {
+		lines = nil
+	}
+	return fmt.Sprintf("%dx%d:%s", rows, cols, strings.Join(lines, ";"))
+}
+
+// anyMatrix: entries at random, of one of several ranges; many noughts in some,
+// rows that hang on one another in some.
+func anyMatrix(source *rand.Rand, rows int, cols int) [][]int64 {
+	limit := []int64{1, 2, 9, 1 << 20, 1<<32 + 1, bound}[source.Intn(6)]
+	sparse := source.Intn(3) == 0
+	out := make([][]int64, rows)
+	for r := range out {
+		out[r] = make([]int64, cols)
+		for c := range out[r] {
+			out[r][c] = source.Int63n(2*limit+1) - limit
+			if limit > 9 && source.Intn(4) == 0 {
+				out[r][c] = []int64{limit, -limit, limit - 1, 0}[source.Intn(4)]
+			}
+			if sparse && source.Intn(2) == 0 {
+				out[r][c] = 0
+			}
+		}
+	}
+	if rows > 1 && source.Intn(3) == 0 {
+		bind(source, out)
+	}
+	return out
+}
+
+// bind: makes one row the negative of another, or, where no entry grows too
+// great, the sum of two.
+func bind(source *rand.Rand, rows [][]int64) {
+	order := source.Perm(len(rows))
+	target, first, second := rows[order[0]], rows[order[1]], rows[order[len(order)-1]]
+	sums := len(rows) > 2
+	for c := range first {
+		sum := first[c] + second[c]
+		sums = sums && sum <= bound && sum >= -bound
+	}
+	for c := range target {
+		target[c] = -first[c]
+		if sums {
+			target[c] = first[c] + second[c]
+		}
+	}
+}

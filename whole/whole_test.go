@@ -1,0 +1,95 @@
+package whole
+
+import (
+	"math"
+	"math/big"
+	"math/rand"
+	"strings"
+	"testing"
+)
+
+func fromBig(v *big.Int) Int {
+	text := v.String()
+	digits := strings.TrimPrefix(text, "-")
+	a := FromDigits(digits)
+	if digits != text {
+		a = a.Neg()
+	}
+	return a
+}
+
+// samples: numbers about the borders of limbs and of decimal chunks, and some
+// at random, of both signs.
+func samples() []*big.Int {
+	out := []*big.Int{big.NewInt(0)}
+	add := func(v *big.Int) { out = append(out, v, new(big.Int).Neg(v)) }
+	for _, bits := range []uint{0, 1, 31, 32, 33, 47, 48, 63, 64, 65, 96, 128, 192, 400} {
+		p := new(big.Int).Lsh(big.NewInt(1), bits)
+		add(p)
+		add(new(big.Int).Sub(p, big.NewInt(1)))
+		add(new(big.Int).Add(p, big.NewInt(1)))
+	}
+	for _, tens := range []int64{1, 8, 9, 10, 17, 18, 19, 27, 50} {
+		p := new(big.Int).Exp(big.NewInt(10), big.NewInt(tens), nil)
+		add(p)
+		add(new(big.Int).Sub(p, big.NewInt(1)))
+	}
+	source := rand.New(rand.NewSource(1))
+	for i := 0; i < 60; i++ {
+		limit := new(big.Int).Lsh(big.NewInt(1), uint(source.Intn(300)))
+		add(new(big.Int).Rand(source, limit))
+	}
+	return out
+}
+
+func TestReckoning(t *testing.T) {
+	all := samples()
+	for _, x := range all {
+		for _, y := range all {
+			a, b := fromBig(x), fromBig(y)
+			for _, c := range []struct {
+				name string
+				got  Int
+				want *big.Int
+			}{
+				{"+", a.Add(b), new(big.Int).Add(x, y)},
+				{"-", a.Sub(b), new(big.Int).Sub(x, y)},
+				{"*", a.Mul(b), new(big.Int).Mul(x, y)},
+			} {
+				if c.got.Decimal() != c.want.String() {
+					t.Fatalf("%s %s %s = %s, want %s", x, c.name, y, c.got.Decimal(), c.want)
+				}
+				if c.got.Bits() != c.want.BitLen() || c.got.IsZero() != (c.want.Sign() == 0) {
+					t.Fatalf("%s %s %s: %d bits, want %d", x, c.name, y, c.got.Bits(), c.want.BitLen())
+				}
+			}
+			if a.Decimal() != x.String() || b.Decimal() != y.String() {
+				t.Fatalf("%s or %s was changed", x, y)
+			}
+		}
+	}
+}
+
+func TestFromInt64(t *testing.T) {
+	for _, v := range []int64{0, 1, -1, 1 << 32, -1 << 32, 1<<48 - 1, math.MaxInt64, math.MinInt64} {
+		if got := FromInt64(v).Decimal(); got != big.NewInt(v).String() {
+			t.Errorf("FromInt64(%d) = %s", v, got)
+		}
+	}
+}
+
+func TestZeroValue(t *testing.T) {
+	zero := Int{}
+	for _, a := range []Int{zero, zero.Neg(), zero.Add(zero), FromInt64(5).Sub(FromInt64(5)), FromInt64(-5).Add(FromInt64(5)), FromInt64(-5).Mul(zero), FromDigits("0").Neg()} {
+		if !a.IsZero() || a.Decimal() != "0" || a.Bits() != 0 {
+			t.Errorf("nought is %q with %d bits", a.Decimal(), a.Bits())
+		}
+	}
+}
+
+func TestLongDecimal(t *testing.T) {
+	digits := "1" + strings.Repeat("0", 2000) + strings.Repeat("9", 1999)
+	if got := FromDigits(digits).Decimal(); got != digits {
+		t.Errorf("4,000 digits came back as %d", len(got))
+	}
+}
