@@ -143,7 +143,7 @@ func TestP7Knowns(t *testing.T) {
 	}
 }
 
-// Det of products: the greatest that can come out, 16 times most^4 (a matrix of
+// The greatest determinant that can come out, 16 times most^4 (a matrix of
 // Hadamard's), is beyond 64 and 128 bits.
 func TestP7GreatDet(t *testing.T) {
 	d := start(t)
