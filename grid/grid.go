@@ -23,6 +23,16 @@ func Noughts(rows int, cols int) Matrix {
 	return Matrix{rows: rows, cols: cols, cells: make([]whole.Int, rows*cols)}
 }
 
+// Unit is the unit matrix of this side (with no rows, if it is out of bounds).
+func Unit(side int) Matrix {
+	m := Noughts(side, side)
+	one := whole.FromInt64(1)
+	for i := 0; i < m.rows; i++ {
+		m.set(i, i, one)
+	}
+	return m
+}
+
 // FromCells is the matrix with these entries, row by row: 0 stands where there
 // are too few, and what is beyond the last entry is left out.
 func FromCells(rows int, cols int, cells []whole.Int) Matrix {
@@ -59,6 +69,32 @@ func (m Matrix) Fits(side int, bits int) bool {
 		}
 	}
 	return true
+}
+
+// Is tells whether m and n have the same sides and the same entries.
+func (m Matrix) Is(n Matrix) bool {
+	if m.rows != n.rows || m.cols != n.cols {
+		return false
+	}
+	for i := 0; i < len(m.cells) && i < len(n.cells); i++ {
+		if !m.cells[i].Is(n.cells[i]) {
+			return false
+		}
+	}
+	return true
+}
+
+// Over is the matrix of the rows of m and, below them, those of n, which has
+// as many columns.
+func (m Matrix) Over(n Matrix) Matrix {
+	cells := []whole.Int{}
+	for i := 0; i < len(m.cells); i++ {
+		cells = append(cells, m.cells[i])
+	}
+	for i := 0; i < len(n.cells); i++ {
+		cells = append(cells, n.cells[i])
+	}
+	return FromCells(m.rows+n.rows, m.cols, cells)
 }
 
 // Times is the product of m and n; n has as many rows as m has columns.

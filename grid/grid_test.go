@@ -14,20 +14,6 @@ func of(rows int, cols int, entries ...int64) Matrix {
 	return FromCells(rows, cols, cells)
 }
 
-func same(a Matrix, b Matrix) bool {
-	if a.Rows() != b.Rows() || a.Cols() != b.Cols() {
-		return false
-	}
-	for r := 0; r < a.Rows(); r++ {
-		for c := 0; c < a.Cols(); c++ {
-			if !a.At(r, c).Sub(b.At(r, c)).IsZero() {
-				return false
-			}
-		}
-	}
-	return true
-}
-
 func TestSides(t *testing.T) {
 	for _, c := range []struct{ rows, cols, wantRows, wantCols int }{
 		{0, 0, 0, 0}, {2, 0, 2, 0}, {0, 3, 0, 3}, {99, 99, 99, 99},
@@ -53,10 +39,10 @@ func TestFromCellsCopies(t *testing.T) {
 	cells := []whole.Int{whole.FromInt64(1), whole.FromInt64(2), whole.FromInt64(3)}
 	m := FromCells(1, 2, cells)
 	cells[0] = whole.FromInt64(9)
-	if !same(m, of(1, 2, 1, 2)) {
+	if !m.Is(of(1, 2, 1, 2)) {
 		t.Error("a matrix shares memory with the cells it was made of")
 	}
-	if !same(FromCells(2, 2, cells[:1]), of(2, 2, 9, 0, 0, 0)) {
+	if !FromCells(2, 2, cells[:1]).Is(of(2, 2, 9, 0, 0, 0)) {
 		t.Error("entries that are missing are not 0")
 	}
 }
@@ -77,10 +63,11 @@ func TestFits(t *testing.T) {
 
 func TestReckoningLeavesTheOperands(t *testing.T) {
 	m := of(3, 3, 0, 2, 3, 4, 5, 6, 7, 8, 9)
-	m.Rank()
+	m.Echelon()
+	m.Over(m)
 	m.Det()
 	m.Times(m)
-	if !same(m, of(3, 3, 0, 2, 3, 4, 5, 6, 7, 8, 9)) {
+	if !m.Is(of(3, 3, 0, 2, 3, 4, 5, 6, 7, 8, 9)) {
 		t.Error("an operand was changed")
 	}
 }
@@ -88,5 +75,58 @@ func TestReckoningLeavesTheOperands(t *testing.T) {
 func TestDetOfUnequalSides(t *testing.T) {
 	if !of(1, 2, 3, 4).Det().IsZero() || !Noughts(0, 3).Det().IsZero() {
 		t.Error("Det of unequal sides is not 0")
+	}
+}
+
+func TestIs(t *testing.T) {
+	m := of(2, 2, 1, 2, 3, 4)
+	if !m.Is(of(2, 2, 1, 2, 3, 4)) || !of(0, 3).Is(of(0, 3)) {
+		t.Error("a matrix is not as itself")
+	}
+	for _, n := range []Matrix{of(2, 2, 1, 2, 3, -4), of(2, 2, -1, 2, 3, 4), of(2, 1, 1, 2), of(1, 4, 1, 2, 3, 4), of(0, 0), of(0, 2)} {
+		if m.Is(n) || n.Is(m) {
+			t.Errorf("two of %dx%d and 2x2 are the same", n.Rows(), n.Cols())
+		}
+	}
+}
+
+func TestOver(t *testing.T) {
+	m, n := of(1, 2, 1, 2), of(2, 2, 3, 4, 5, 6)
+	if !m.Over(n).Is(of(3, 2, 1, 2, 3, 4, 5, 6)) || !n.Over(m).Is(of(3, 2, 3, 4, 5, 6, 1, 2)) {
+		t.Error("rows are not where they should be")
+	}
+	if !of(0, 2).Over(m).Is(m) || !m.Over(of(0, 2)).Is(m) || !of(2, 0).Over(of(1, 0)).Is(of(3, 0)) {
+		t.Error("no rows, or no columns, are not as they should be")
+	}
+}
+
+func TestUnit(t *testing.T) {
+	if !Unit(2).Is(of(2, 2, 1, 0, 0, 1)) || !Unit(0).Is(of(0, 0)) || !Unit(-1).Is(of(0, 0)) || !Unit(MaxSide+1).Is(of(0, 0)) {
+		t.Error("a unit matrix is wrong")
+	}
+}
+
+func TestRowFormOfManyRows(t *testing.T) {
+	m := Noughts(8, 4)
+	for i := range m.cells {
+		m.cells[i] = whole.FromInt64(int64(i*i*i*7919%1000003) - 500000)
+	}
+	f := m.Echelon()
+	if !f.U.Times(m).Is(f.H) || !f.U.Times(f.W).Is(Unit(8)) {
+		t.Error("U or W does not show that H is right")
+	}
+	if f.Rank != 4 || !f.Basis().Over(Noughts(4, 4)).Is(f.H) {
+		t.Errorf("the rank is %d, the basis has %d rows", f.Rank, f.Basis().Rows())
+	}
+}
+
+// What is not too great for an answer is not made far greater than it need be:
+// the common divisor of four entries takes no shares beyond the entries.
+func TestSharesStaySmall(t *testing.T) {
+	const bits = 48
+	m := of(4, 1, 1<<bits-1, 1<<bits-2, 1<<bits-3, 1<<bits-5)
+	f := m.Echelon()
+	if !f.U.Fits(4, bits) || !f.W.Fits(4, bits) {
+		t.Error("U or W has grown too far")
 	}
 }

@@ -96,20 +96,8 @@ func (s *Store) Rank(h int) (int, api.Errno) {
 	if tooBig(m) {
 		return -1, api.ErrTooBig
 	}
-	return m.Rank(), api.OK
+	return m.Echelon().Rank, api.OK
 }
-
-// Echelon makes the row form (P8).
-func (s *Store) Echelon(h int) ([]int, api.Errno) { return nil, api.OK }
-
-// Member tells whether a row is spanned (P9).
-func (s *Store) Member(g int, h int) (bool, int, api.Errno) { return false, 0, api.OK }
-
-// Equal tells whether two span the same (P9).
-func (s *Store) Equal(g int, h int) (bool, api.Errno) { return false, api.OK }
-
-// Sum makes what two span together (P9).
-func (s *Store) Sum(g int, h int) (int, api.Errno) { return 0, api.OK }
 
 // Diagonal makes the diagonal form (P10).
 func (s *Store) Diagonal(h int) ([]int, api.Errno) { return nil, api.OK }

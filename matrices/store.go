@@ -55,6 +55,17 @@ func (s *Store) keep(m grid.Matrix) int {
 	return -1
 }
 
+// keepAll holds matrices, in their order, and lists their handles; there is
+// room for them.
+func (s *Store) keepAll(all []grid.Matrix) []int {
+	handles := make([]int, len(all))
+	for i := 0; i < len(all); i++ {
+		handle := s.keep(all[i])
+		handles[i] = handle
+	}
+	return handles
+}
+
 // tooBig tells whether a matrix is too great to be typed or reckoned with.
 func tooBig(m grid.Matrix) bool {
 	return !m.Fits(api.MaxDim, api.MaxBits)

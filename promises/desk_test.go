@@ -117,7 +117,49 @@ func (d desk) unchanged(calls func()) {
 	}
 }
 
-// The four below: a refusal with the error e is due, and the answer that P1 says.
+// echelon: the handles of H, U and W; looks that the list is as P2 says and the
+// handles as P4 says.
+func (d desk) echelon(h int) []int {
+	d.t.Helper()
+	l, e := d.s.Echelon(h)
+	if e != api.OK || len(l) != 3 || cap(l) != 3 {
+		d.t.Fatalf("P2, P8: Echelon(%d) = %v (room for %d), %d", h, l, cap(l), e)
+	}
+	if l[0] < 0 || l[1] != l[0]+1 || l[2] != l[0]+2 {
+		d.t.Fatalf("P4, P8: Echelon(%d) = %v: the handles are not in order", h, l)
+	}
+	return l
+}
+
+// member: the handle of c, or -1, if the row is not spanned.
+func (d desk) member(g int, h int) int {
+	d.t.Helper()
+	yes, k, e := d.s.Member(g, h)
+	if e != api.OK || yes != (k >= 0) || k < -1 {
+		d.t.Fatalf("P9: Member(%d, %d) = %v, %d, %d", g, h, yes, k, e)
+	}
+	return k
+}
+
+func (d desk) equal(g int, h int) bool {
+	d.t.Helper()
+	yes, e := d.s.Equal(g, h)
+	if e != api.OK {
+		d.t.Fatalf("P9: Equal(%d, %d) = %v, %d", g, h, yes, e)
+	}
+	return yes
+}
+
+func (d desk) sum(g int, h int) int {
+	d.t.Helper()
+	k, e := d.s.Sum(g, h)
+	if e != api.OK {
+		d.t.Fatalf("P9: Sum(%d, %d) = %d, %d", g, h, k, e)
+	}
+	return k
+}
+
+// The ones below: a refusal with the error e is due, and the answer that P1 says.
 
 func (d desk) refuseType(text string, e api.Errno) {
 	d.t.Helper()
@@ -144,6 +186,34 @@ func (d desk) refuseRank(h int, e api.Errno) {
 	d.t.Helper()
 	if r, got := d.s.Rank(h); r != -1 || got != e {
 		d.t.Errorf("P5, P7: Rank(%d) = %d, %d, want -1, %d", h, r, got, e)
+	}
+}
+
+func (d desk) refuseEchelon(h int, e api.Errno) {
+	d.t.Helper()
+	if l, got := d.s.Echelon(h); l != nil || got != e {
+		d.t.Errorf("P5, P8: Echelon(%d) = %v, %d, want nil, %d", h, l, got, e)
+	}
+}
+
+func (d desk) refuseMember(g int, h int, e api.Errno) {
+	d.t.Helper()
+	if yes, k, got := d.s.Member(g, h); yes || k != -1 || got != e {
+		d.t.Errorf("P5, P9: Member(%d, %d) = %v, %d, %d, want false, -1, %d", g, h, yes, k, got, e)
+	}
+}
+
+func (d desk) refuseEqual(g int, h int, e api.Errno) {
+	d.t.Helper()
+	if yes, got := d.s.Equal(g, h); yes || got != e {
+		d.t.Errorf("P5, P9: Equal(%d, %d) = %v, %d, want false, %d", g, h, yes, got, e)
+	}
+}
+
+func (d desk) refuseSum(g int, h int, e api.Errno) {
+	d.t.Helper()
+	if k, got := d.s.Sum(g, h); k != -1 || got != e {
+		d.t.Errorf("P5, P9: Sum(%d, %d) = %d, %d, want -1, %d", g, h, k, got, e)
 	}
 }
 

@@ -24,7 +24,14 @@ func TestP1EveryCallEnds(t *testing.T) {
 			for _, h := range append(nowhere, 0) {
 				d.refuseTimes(g, h, api.ErrNoHandle)
 				d.refuseTimes(h, g, api.ErrNoHandle)
+				d.refuseMember(g, h, api.ErrNoHandle)
+				d.refuseMember(h, g, api.ErrNoHandle)
+				d.refuseEqual(g, h, api.ErrNoHandle)
+				d.refuseEqual(h, g, api.ErrNoHandle)
+				d.refuseSum(g, h, api.ErrNoHandle)
+				d.refuseSum(h, g, api.ErrNoHandle)
 			}
+			d.refuseEchelon(g, api.ErrNoHandle)
 			d.refuseDet(g, api.ErrNoHandle)
 			d.refuseRank(g, api.ErrNoHandle)
 			if text, e := d.s.Show(g); text != "" || e != api.ErrNoHandle {
@@ -71,6 +78,16 @@ func TestP1RefusedCallsChangeNothing(t *testing.T) {
 		d.refuseDet(flat, api.ErrShape)
 		d.refuseDet(great, api.ErrTooBig)
 		d.refuseRank(great, api.ErrTooBig)
+		d.refuseEchelon(last, api.ErrFull)
+		d.refuseEchelon(great, api.ErrTooBig)
+		d.refuseMember(flat, flat, api.ErrShape)
+		d.refuseMember(great, last, api.ErrTooBig)
+		d.refuseMember(last, last, api.ErrFull)
+		d.refuseEqual(flat, last, api.ErrShape)
+		d.refuseEqual(last, great, api.ErrTooBig)
+		d.refuseSum(flat, last, api.ErrShape)
+		d.refuseSum(last, great, api.ErrTooBig)
+		d.refuseSum(last, last, api.ErrFull)
 	})
 	d.free(last)
 	if h := d.put("1x1: 1"); h != last+1 {
@@ -78,36 +95,70 @@ func TestP1RefusedCallsChangeNothing(t *testing.T) {
 	}
 }
 
-// script: some hundred calls, chosen by a seed; what they answer, line by line.
-// With shows, Show is called between them.
+// script: some hundred calls, chosen by a seed; what they answer, line by line,
+// and what is held in the end. With shows, Show is called between them.
 func script(d desk, seed int64, shows bool) string {
 	source := rand.New(rand.NewSource(seed))
 	out := strings.Builder{}
+	known := []int{-1}
 	for i := 0; i < 300; i++ {
-		g, h := source.Intn(40)-1, source.Intn(40)-1
-		switch source.Intn(8) {
-		case 0, 1, 2:
-			rows, cols := source.Intn(4), source.Intn(4)
-			k, e := d.s.Type(write(rows, cols, anyMatrix(source, rows, cols)))
-			fmt.Fprintln(&out, "Type", k, e)
-		case 3:
-			fmt.Fprintln(&out, "Free", h, d.s.Free(h))
-		case 4, 5:
-			k, e := d.s.Times(g, h)
-			fmt.Fprintln(&out, "Times", k, e)
-		case 6:
-			text, e := d.s.Det(h)
-			fmt.Fprintln(&out, "Det", text, e)
-		case 7:
-			r, e := d.s.Rank(h)
-			fmt.Fprintln(&out, "Rank", r, e)
+		g, h := known[source.Intn(len(known))], known[source.Intn(len(known))]
+		what, handles, e := anyCall(d, source, g, h)
+		fmt.Fprintln(&out, what, handles, e)
+		known = append(known, handles...)
+		for e == api.ErrFull && len(known) > 16 {
+			d.s.Free(known[0])
+			known = known[1:]
 		}
-		for k := -1; shows && k < 50; k++ {
-			d.s.Show(k)
+		for k := 0; shows && k < len(known); k++ {
+			d.s.Show(known[k])
 		}
 	}
-	fmt.Fprintln(&out, d.held())
+	for _, k := range known {
+		text, e := d.s.Show(k)
+		fmt.Fprintln(&out, "Show", k, text, e)
+	}
 	return out.String()
+}
+
+// anyCall: a call at random; what it answered, the handles that came out, and
+// the error.
+func anyCall(d desk, source *rand.Rand, g int, h int) (string, []int, api.Errno) {
+	switch source.Intn(12) {
+	case 0, 1, 2:
+		rows, cols := source.Intn(3), 2-source.Intn(4)/3
+		k, e := d.s.Type(write(rows, cols, anyMatrix(source, rows, cols)))
+		return "Type", listed(k), e
+	case 3:
+		return "Free", nil, d.s.Free(h)
+	case 4, 5:
+		k, e := d.s.Times(g, h)
+		return "Times", listed(k), e
+	case 6:
+		text, e := d.s.Det(h)
+		return "Det " + text, nil, e
+	case 7:
+		r, e := d.s.Rank(h)
+		return fmt.Sprint("Rank ", r), nil, e
+	case 8:
+		l, e := d.s.Echelon(h)
+		return "Echelon", l, e
+	case 9:
+		yes, k, e := d.s.Member(g, h)
+		return fmt.Sprint("Member ", yes), listed(k), e
+	case 10:
+		yes, e := d.s.Equal(g, h)
+		return fmt.Sprint("Equal ", yes), nil, e
+	}
+	k, e := d.s.Sum(g, h)
+	return "Sum", listed(k), e
+}
+
+func listed(k int) []int {
+	if k < 0 {
+		return nil
+	}
+	return []int{k}
 }
 
 func TestP2AnswersHangOnTheCallsAlone(t *testing.T) {

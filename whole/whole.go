@@ -50,18 +50,19 @@ func FromDigits(digits string) Int {
 // IsZero tells whether a is 0.
 func (a Int) IsZero() bool { return len(a.limbs) == 0 }
 
-// Bits tells how many bits the amount of a has (0 has none).
-func (a Int) Bits() int {
-	n := len(a.limbs)
-	if n == 0 {
-		return 0
-	}
-	bits := (n - 1) * limbBits
-	for top := a.limbs[n-1]; top > 0; top >>= 1 {
-		bits++
-	}
-	return bits
+// IsBelow tells whether a is less than 0.
+func (a Int) IsBelow() bool { return a.below }
+
+// Is tells whether a and b are the same number.
+func (a Int) Is(b Int) bool {
+	return a.below == b.below && sameAmount(a.limbs, b.limbs)
 }
+
+// IsSmaller tells whether a is less than b in amount.
+func (a Int) IsSmaller(b Int) bool { return lessAmount(a.limbs, b.limbs) }
+
+// Bits tells how many bits the amount of a has (0 has none).
+func (a Int) Bits() int { return bitsOf(a.limbs) }
 
 // Neg is 0 - a.
 func (a Int) Neg() Int {
@@ -90,6 +91,21 @@ func (a Int) Sub(b Int) Int {
 func (a Int) Mul(b Int) Int {
 	limbs := mulAmounts(a.limbs, b.limbs)
 	return Int{below: a.below != b.below && len(limbs) > 0, limbs: limbs}
+}
+
+// Quotient is a divided by b, rounded down (0, if b is 0).
+func (a Int) Quotient(b Int) Int {
+	if b.IsZero() {
+		return Int{}
+	}
+	limbs, left := divAmounts(a.limbs, b.limbs)
+	if a.below == b.below {
+		return Int{limbs: limbs}
+	}
+	if len(left) > 0 {
+		limbs = addAmounts(limbs, []uint32{1})
+	}
+	return Int{below: len(limbs) > 0, limbs: limbs}
 }
 
 // Decimal is a in decimal, with "-" ahead if it is below 0.
@@ -121,6 +137,30 @@ func trim(limbs []uint32) []uint32 {
 		n--
 	}
 	return limbs[:n]
+}
+
+func bitsOf(limbs []uint32) int {
+	n := len(limbs)
+	if n == 0 {
+		return 0
+	}
+	bits := (n - 1) * limbBits
+	for top := limbs[n-1]; top > 0; top >>= 1 {
+		bits++
+	}
+	return bits
+}
+
+func sameAmount(a []uint32, b []uint32) bool {
+	if len(a) != len(b) {
+		return false
+	}
+	for i := 0; i < len(a); i++ {
+		if a[i] != b[i] {
+			return false
+		}
+	}
+	return true
 }
 
 func lessAmount(a []uint32, b []uint32) bool {
@@ -187,6 +227,40 @@ func mulAmounts(a []uint32, b []uint32) []uint32 {
 		product[i+len(b)] = uint32(carry)
 	}
 	return trim(product)
+}
+
+// divAmounts divides a by b: the quotient and what is left (0 and a, if b is
+// 0). It goes bit by bit: most quotients here are short.
+func divAmounts(a []uint32, b []uint32) ([]uint32, []uint32) {
+	width := bitsOf(b)
+	if width == 0 {
+		return []uint32{}, a
+	}
+	quotient := make([]uint32, len(a))
+	left := a
+	for place := bitsOf(a) - width; place >= 0; place-- {
+		part := shiftAmount(b, place)
+		if !lessAmount(left, part) {
+			left = subAmounts(left, part)
+			quotient[place/limbBits] |= 1 << uint(place%limbBits)
+		}
+	}
+	return trim(quotient), left
+}
+
+// shiftAmount is a times 2 to the places.
+func shiftAmount(a []uint32, places int) []uint32 {
+	skip := places / limbBits
+	shift := uint(places % limbBits)
+	shifted := make([]uint32, len(a)+skip+1)
+	carry := uint64(0)
+	for i := 0; i < len(a); i++ {
+		carry |= uint64(a[i]) << shift
+		shifted[i+skip] = uint32(carry)
+		carry >>= limbBits
+	}
+	shifted[len(a)+skip] = uint32(carry)
+	return trim(shifted)
 }
 
 // splitChunk divides by chunk: the quotient and what is left.

@@ -55,6 +55,7 @@ func TestReckoning(t *testing.T) {
 				{"+", a.Add(b), new(big.Int).Add(x, y)},
 				{"-", a.Sub(b), new(big.Int).Sub(x, y)},
 				{"*", a.Mul(b), new(big.Int).Mul(x, y)},
+				{"/", a.Quotient(b), roundedDown(x, y)},
 			} {
 				if c.got.Decimal() != c.want.String() {
 					t.Fatalf("%s %s %s = %s, want %s", x, c.name, y, c.got.Decimal(), c.want)
@@ -63,9 +64,43 @@ func TestReckoning(t *testing.T) {
 					t.Fatalf("%s %s %s: %d bits, want %d", x, c.name, y, c.got.Bits(), c.want.BitLen())
 				}
 			}
+			if a.Is(b) != (x.Cmp(y) == 0) || a.IsSmaller(b) != (x.CmpAbs(y) < 0) {
+				t.Fatalf("%s and %s: Is %v, IsSmaller %v", x, y, a.Is(b), a.IsSmaller(b))
+			}
 			if a.Decimal() != x.String() || b.Decimal() != y.String() {
 				t.Fatalf("%s or %s was changed", x, y)
 			}
+		}
+	}
+}
+
+func roundedDown(x *big.Int, y *big.Int) *big.Int {
+	if y.Sign() == 0 {
+		return big.NewInt(0)
+	}
+	quotient, left := new(big.Int).QuoRem(x, y, new(big.Int))
+	if left.Sign() != 0 && left.Sign() != y.Sign() {
+		quotient.Sub(quotient, big.NewInt(1))
+	}
+	return quotient
+}
+
+func TestQuotient(t *testing.T) {
+	for _, c := range [][3]int64{
+		{7, 2, 3}, {-7, 2, -4}, {7, -2, -4}, {-7, -2, 3}, {6, 2, 3}, {-6, 2, -3}, {6, -2, -3}, {-6, -2, 3},
+		{1, 2, 0}, {-1, 2, -1}, {1, -2, -1}, {-1, -2, 0}, {0, 5, 0}, {0, -5, 0}, {5, 0, 0}, {-5, 0, 0}, {0, 0, 0},
+		{math.MinInt64, 1, math.MinInt64}, {math.MinInt64, math.MinInt64, 1}, {math.MaxInt64, math.MinInt64, -1}, {1 << 32, 1<<32 - 1, 1},
+	} {
+		if got := FromInt64(c[0]).Quotient(FromInt64(c[1])); !got.Is(FromInt64(c[2])) {
+			t.Errorf("%d by %d = %s, want %d", c[0], c[1], got.Decimal(), c[2])
+		}
+	}
+}
+
+func TestIsBelow(t *testing.T) {
+	for _, v := range []int64{0, 1, -1, math.MaxInt64, math.MinInt64} {
+		if FromInt64(v).IsBelow() != (v < 0) {
+			t.Errorf("IsBelow of %d is wrong", v)
 		}
 	}
 }
@@ -80,8 +115,8 @@ func TestFromInt64(t *testing.T) {
 
 func TestZeroValue(t *testing.T) {
 	zero := Int{}
-	for _, a := range []Int{zero, zero.Neg(), zero.Add(zero), FromInt64(5).Sub(FromInt64(5)), FromInt64(-5).Add(FromInt64(5)), FromInt64(-5).Mul(zero), FromDigits("0").Neg()} {
-		if !a.IsZero() || a.Decimal() != "0" || a.Bits() != 0 {
+	for _, a := range []Int{zero, zero.Neg(), zero.Add(zero), FromInt64(5).Sub(FromInt64(5)), FromInt64(-5).Add(FromInt64(5)), FromInt64(-5).Mul(zero), FromDigits("0").Neg(), zero.Quotient(FromInt64(-5)), FromInt64(-5).Quotient(zero), FromInt64(5).Quotient(FromInt64(9))} {
+		if !a.Is(zero) || a.IsBelow() || !a.IsZero() || a.Decimal() != "0" || a.Bits() != 0 {
 			t.Errorf("nought is %q with %d bits", a.Decimal(), a.Bits())
 		}
 	}
