@@ -175,9 +175,9 @@ func TestP2ListsAreTheCallers(t *testing.T) {
 		if k != i+1 || second[i] != i+4 {
 			t.Fatalf("P2, P4: the lists %v and %v", kept, second)
 		}
-		if d.show(k) != d.show(second[i]) {
-			t.Errorf("P2: the same call, first %q, then %q", d.show(k), d.show(second[i]))
-		}
+	}
+	if d.show(kept[0]) != d.show(second[0]) {
+		t.Errorf("P8: of the same matrix H is %q, then %q", d.show(kept[0]), d.show(second[0]))
 	}
 	second[0], second[1], second[2] = 0, 0, 0
 	if third := d.echelon(g); third[0] != 7 || third[1] != 8 || third[2] != 9 {
