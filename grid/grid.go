@@ -97,6 +97,18 @@ func (m Matrix) Over(n Matrix) Matrix {
 	return FromCells(m.rows+n.rows, m.cols, cells)
 }
 
+// Flipped has the columns of m as rows, and its rows as columns.
+func (m Matrix) Flipped() Matrix {
+	flipped := Noughts(m.cols, m.rows)
+	for r := 0; r < m.rows; r++ {
+		for c := 0; c < m.cols; c++ {
+			v := m.At(r, c)
+			flipped.set(c, r, v)
+		}
+	}
+	return flipped
+}
+
 // Times is the product of m and n; n has as many rows as m has columns.
 func (m Matrix) Times(n Matrix) Matrix {
 	product := Noughts(m.rows, n.cols)

@@ -67,6 +67,9 @@ func TestReckoningLeavesTheOperands(t *testing.T) {
 	m.Over(m)
 	m.Det()
 	m.Times(m)
+	m.Flipped()
+	m.Diagonal()
+	m.Solve(of(3, 1, 5, 15, 24))
 	if !m.Is(of(3, 3, 0, 2, 3, 4, 5, 6, 7, 8, 9)) {
 		t.Error("an operand was changed")
 	}
@@ -128,5 +131,70 @@ func TestSharesStaySmall(t *testing.T) {
 	f := m.Echelon()
 	if !f.U.Fits(4, bits) || !f.W.Fits(4, bits) {
 		t.Error("U or W has grown too far")
+	}
+}
+
+func TestFlipped(t *testing.T) {
+	if !of(2, 3, 1, 2, 3, 4, 5, 6).Flipped().Is(of(3, 2, 1, 4, 2, 5, 3, 6)) {
+		t.Error("an entry is not where it should be")
+	}
+	if !of(0, 3).Flipped().Is(of(3, 0)) || !of(2, 0).Flipped().Is(of(0, 2)) || !of(0, 0).Flipped().Is(of(0, 0)) {
+		t.Error("no rows, or no columns, are not as they should be")
+	}
+}
+
+func TestKernel(t *testing.T) {
+	for _, c := range []struct{ m, want Matrix }{
+		{of(3, 1, 0, 5, 0), of(2, 3, 0, 0, 0, 0, 0, 0)}, {of(2, 0), of(2, 2)}, {of(0, 2), of(0, 0)}, {of(2, 2, 1, 0, 0, 1), of(0, 2)},
+	} {
+		k := c.m.Echelon().Kernel()
+		if k.Rows() != c.want.Rows() || k.Cols() != c.want.Cols() || !k.Times(c.m).Is(Noughts(k.Rows(), c.m.Cols())) {
+			t.Errorf("of %dx%d the kernel is %dx%d, or its product is not noughts", c.m.Rows(), c.m.Cols(), k.Rows(), k.Cols())
+		}
+		if k.Echelon().Rank != k.Rows() {
+			t.Error("rows of a kernel hang together")
+		}
+	}
+}
+
+func TestDiagonalOfManyRows(t *testing.T) {
+	for _, sides := range [][2]int{{8, 4}, {4, 8}, {7, 7}, {1, 9}} {
+		m := Noughts(sides[0], sides[1])
+		for i := range m.cells {
+			m.cells[i] = whole.FromInt64(int64(i*i*i*7919%10007) - 5000)
+		}
+		f := m.Diagonal()
+		if !f.U.Times(m).Times(f.V).Is(f.D) || !f.U.Times(f.S).Is(Unit(m.rows)) || !f.V.Times(f.T).Is(Unit(m.cols)) {
+			t.Error("U, S, V or T does not show that D is right")
+		}
+		if !f.D.isDiagonal() || f.D.oddPlace() >= 0 || f.Index().IsBelow() {
+			t.Errorf("D of %dx%d is no diagonal form", m.rows, m.cols)
+		}
+	}
+}
+
+func TestOddPlace(t *testing.T) {
+	for _, c := range []struct {
+		m    Matrix
+		want int
+	}{
+		{of(0, 0), -1}, {of(1, 1, 3), -1}, {of(2, 2, 2, 0, 0, 3), 0}, {of(2, 2, 2, 0, 0, 4), -1}, {of(2, 2, 2, 0, 0, 0), -1}, {of(2, 2, 0, 0, 0, 2), 0}, {of(2, 2, 0, 0, 0, 0), -1},
+		{of(3, 3, 1, 0, 0, 0, 4, 0, 0, 0, 6), 1}, {of(3, 2, 2, 0, 0, 3, 0, 0), 0}, {of(2, 3, 2, 0, 0, 0, 2, 0), -1},
+	} {
+		if got := c.m.oddPlace(); got != c.want {
+			t.Errorf("the odd place of %dx%d is %d, want %d", c.m.rows, c.m.cols, got, c.want)
+		}
+	}
+}
+
+// Forms of rows and columns in turn keep what shows that D is right far smaller
+// than steps with single entries would.
+func TestDiagonalStaysSmall(t *testing.T) {
+	const m, n = 1<<48 - 1, 1<<48 - 59
+	f := of(4, 4, m, n, 3, -n, n-7, m-2, -m, 5, m-4, 11, n-9, m, -m+8, n, m-6, 13).Diagonal()
+	for i, one := range []Matrix{f.U, f.S, f.V, f.T} {
+		if !one.Fits(4, 8*48) {
+			t.Errorf("of U, S, V and T the one at %d has grown too far", i)
+		}
 	}
 }

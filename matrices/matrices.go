@@ -99,14 +99,5 @@ func (s *Store) Rank(h int) (int, api.Errno) {
 	return m.Echelon().Rank, api.OK
 }
 
-// Diagonal makes the diagonal form (P10).
-func (s *Store) Diagonal(h int) ([]int, api.Errno) { return nil, api.OK }
-
-// Index counts classes (P11).
-func (s *Store) Index(h int) (string, api.Errno) { return "", api.OK }
-
-// Solve looks for whole solutions (P12).
-func (s *Store) Solve(g int, h int) (bool, []int, api.Errno) { return false, nil, api.OK }
-
 // Reduce makes a basis of short rows (P13).
 func (s *Store) Reduce(h int) ([]int, api.Errno) { return nil, api.OK }

@@ -159,6 +159,47 @@ func (d desk) sum(g int, h int) int {
 	return k
 }
 
+// diagonal: the handles of D, U, S, V and T; looks at the list as echelon does.
+func (d desk) diagonal(h int) []int {
+	d.t.Helper()
+	l, e := d.s.Diagonal(h)
+	if e != api.OK || len(l) != 5 || cap(l) != 5 {
+		d.t.Fatalf("P2, P10: Diagonal(%d) = %v (room for %d), %d", h, l, cap(l), e)
+	}
+	for i, k := range l {
+		if l[0] < 0 || k != l[0]+i {
+			d.t.Fatalf("P4, P10: Diagonal(%d) = %v: the handles are not in order", h, l)
+		}
+	}
+	return l
+}
+
+func (d desk) index(h int) string {
+	d.t.Helper()
+	n, e := d.s.Index(h)
+	if e != api.OK {
+		d.t.Fatalf("P11: Index(%d) = %q, %d", h, n, e)
+	}
+	return n
+}
+
+// solve: the handles of x and K, or nil, if there is no solution; looks at the
+// list as echelon does.
+func (d desk) solve(g int, h int) []int {
+	d.t.Helper()
+	yes, l, e := d.s.Solve(g, h)
+	if e != api.OK || yes != (l != nil) {
+		d.t.Fatalf("P12: Solve(%d, %d) = %v, %v, %d", g, h, yes, l, e)
+	}
+	if yes && (len(l) != 2 || cap(l) != 2) {
+		d.t.Fatalf("P2, P12: Solve(%d, %d) = %v (room for %d)", g, h, l, cap(l))
+	}
+	if yes && (l[0] < 0 || l[1] != l[0]+1) {
+		d.t.Fatalf("P4, P12: Solve(%d, %d) = %v: the handles are not in order", g, h, l)
+	}
+	return l
+}
+
 // The ones below: a refusal with the error e is due, and the answer that P1 says.
 
 func (d desk) refuseType(text string, e api.Errno) {
@@ -214,6 +255,27 @@ func (d desk) refuseSum(g int, h int, e api.Errno) {
 	d.t.Helper()
 	if k, got := d.s.Sum(g, h); k != -1 || got != e {
 		d.t.Errorf("P5, P9: Sum(%d, %d) = %d, %d, want -1, %d", g, h, k, got, e)
+	}
+}
+
+func (d desk) refuseDiagonal(h int, e api.Errno) {
+	d.t.Helper()
+	if l, got := d.s.Diagonal(h); l != nil || got != e {
+		d.t.Errorf("P5, P10: Diagonal(%d) = %v, %d, want nil, %d", h, l, got, e)
+	}
+}
+
+func (d desk) refuseIndex(h int, e api.Errno) {
+	d.t.Helper()
+	if n, got := d.s.Index(h); n != "" || got != e {
+		d.t.Errorf("P5, P11: Index(%d) = %q, %d, want nothing, %d", h, n, got, e)
+	}
+}
+
+func (d desk) refuseSolve(g int, h int, e api.Errno) {
+	d.t.Helper()
+	if yes, l, got := d.s.Solve(g, h); yes || l != nil || got != e {
+		d.t.Errorf("P5, P12: Solve(%d, %d) = %v, %v, %d, want false, nil, %d", g, h, yes, l, got, e)
 	}
 }
 

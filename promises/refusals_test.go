@@ -30,7 +30,11 @@ func TestP1EveryCallEnds(t *testing.T) {
 				d.refuseEqual(h, g, api.ErrNoHandle)
 				d.refuseSum(g, h, api.ErrNoHandle)
 				d.refuseSum(h, g, api.ErrNoHandle)
+				d.refuseSolve(g, h, api.ErrNoHandle)
+				d.refuseSolve(h, g, api.ErrNoHandle)
 			}
+			d.refuseDiagonal(g, api.ErrNoHandle)
+			d.refuseIndex(g, api.ErrNoHandle)
 			d.refuseEchelon(g, api.ErrNoHandle)
 			d.refuseDet(g, api.ErrNoHandle)
 			d.refuseRank(g, api.ErrNoHandle)
@@ -88,6 +92,12 @@ func TestP1RefusedCallsChangeNothing(t *testing.T) {
 		d.refuseSum(flat, last, api.ErrShape)
 		d.refuseSum(last, great, api.ErrTooBig)
 		d.refuseSum(last, last, api.ErrFull)
+		d.refuseDiagonal(last, api.ErrFull)
+		d.refuseDiagonal(great, api.ErrTooBig)
+		d.refuseIndex(great, api.ErrTooBig)
+		d.refuseSolve(flat, last, api.ErrShape)
+		d.refuseSolve(great, last, api.ErrTooBig)
+		d.refuseSolve(last, last, api.ErrFull)
 	})
 	d.free(last)
 	if h := d.put("1x1: 1"); h != last+1 {
@@ -124,7 +134,7 @@ func script(d desk, seed int64, shows bool) string {
 // anyCall: a call at random; what it answered, the handles that came out, and
 // the error.
 func anyCall(d desk, source *rand.Rand, g int, h int) (string, []int, api.Errno) {
-	switch source.Intn(12) {
+	switch source.Intn(15) {
 	case 0, 1, 2:
 		rows, cols := source.Intn(3), 2-source.Intn(4)/3
 		k, e := d.s.Type(write(rows, cols, anyMatrix(source, rows, cols)))
@@ -149,6 +159,15 @@ func anyCall(d desk, source *rand.Rand, g int, h int) (string, []int, api.Errno)
 	case 10:
 		yes, e := d.s.Equal(g, h)
 		return fmt.Sprint("Equal ", yes), nil, e
+	case 11:
+		l, e := d.s.Diagonal(h)
+		return "Diagonal", l, e
+	case 12:
+		n, e := d.s.Index(h)
+		return "Index " + n, nil, e
+	case 13:
+		yes, l, e := d.s.Solve(g, h)
+		return fmt.Sprint("Solve ", yes), l, e
 	}
 	k, e := d.s.Sum(g, h)
 	return "Sum", listed(k), e

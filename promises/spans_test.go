@@ -436,7 +436,21 @@ func TestP4HandlesInWhateverCall(t *testing.T) {
 		d.refuseMember(a, a, api.ErrShape)
 		d.refuseEchelon(-1, api.ErrNoHandle)
 		take("Times", d.times(in, a))
-		for h := next - 9; h < next; h++ {
+		for _, k := range d.diagonal(a) {
+			take("Diagonal", k)
+		}
+		d.index(a)
+		d.refuseSolve(a, in, api.ErrShape)
+		right, wrong := d.put("2x1: 6; 6"), d.put("2x1: 1; 0")
+		take("Type", right)
+		take("Type", wrong)
+		if d.solve(a, wrong) != nil {
+			t.Fatal("P12: there is no solution")
+		}
+		for _, k := range d.solve(a, right) {
+			take("Solve", k)
+		}
+		for h := next - 18; h < next; h++ {
 			d.free(h)
 		}
 	}

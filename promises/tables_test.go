@@ -75,6 +75,17 @@ func (a table) over(b table) table {
 	return table{a.rows + b.rows, a.cols, append(append([][]*big.Int{}, a.at...), b.at...)}
 }
 
+// flipped: the columns as rows.
+func (a table) flipped() table {
+	out := blank(a.cols, a.rows)
+	for r, row := range a.at {
+		for c, v := range row {
+			out.at[c][r].Set(v)
+		}
+	}
+	return out
+}
+
 func unit(side int) table {
 	out := blank(side, side)
 	for i := range out.at {
@@ -95,22 +106,33 @@ func (a table) fits() bool {
 	return a.rows <= 4 && a.cols <= 4
 }
 
-// size: the rank, and the greatest number that divides all determinants of
-// that many rows and columns. Of two matrices, the one's rows among the
-// other's, both span the same just if their sizes are the same.
-func (a table) size() string {
-	for k := min(a.rows, a.cols); k > 0; k-- {
-		all := big.NewInt(0)
-		for _, rows := range choices(a.rows, k) {
-			for _, cols := range choices(a.cols, k) {
-				all.GCD(nil, nil, all, new(big.Int).Abs(a.det(rows, cols)))
-			}
-		}
-		if all.Sign() != 0 {
-			return fmt.Sprint(k, " ", all)
+// divisor: the greatest number that divides all determinants of k rows and k
+// columns.
+func (a table) divisor(k int) *big.Int {
+	all := big.NewInt(0)
+	for _, rows := range choices(a.rows, k) {
+		for _, cols := range choices(a.cols, k) {
+			all.GCD(nil, nil, all, new(big.Int).Abs(a.det(rows, cols)))
 		}
 	}
-	return "0 1"
+	return all
+}
+
+// rank: the greatest k with a determinant of k rows and columns that is not 0.
+func (a table) rank() int {
+	k := min(a.rows, a.cols)
+	for a.divisor(k).Sign() == 0 {
+		k--
+	}
+	return k
+}
+
+// size: the rank, and the divisor of that many rows and columns. Of two
+// matrices, the one's rows among the other's, both span the same just if their
+// sizes are the same.
+func (a table) size() string {
+	k := a.rank()
+	return fmt.Sprint(k, " ", a.divisor(k))
 }
 
 // spans: whether a spans all rows of b.
@@ -178,6 +200,33 @@ func (a table) fault(bare bool) string {
 			}
 		}
 		last = pivot
+	}
+	return ""
+}
+
+// diagonalFault: what P10 says of a diagonal form that does not hold of a, or
+// nothing.
+func (a table) diagonalFault() string {
+	ahead := big.NewInt(1)
+	for r, row := range a.at {
+		for c, v := range row {
+			if r != c && v.Sign() != 0 {
+				return fmt.Sprintf("off the diagonal stands %s", v)
+			}
+			if r != c {
+				continue
+			}
+			if v.Sign() < 0 {
+				return fmt.Sprintf("on the diagonal stands %s", v)
+			}
+			if ahead.Sign() == 0 && v.Sign() != 0 {
+				return fmt.Sprintf("%s is no multiple of 0", v)
+			}
+			if ahead.Sign() != 0 && new(big.Int).Rem(v, ahead).Sign() != 0 {
+				return fmt.Sprintf("%s is no multiple of %s", v, ahead)
+			}
+			ahead = v
+		}
 	}
 	return ""
 }

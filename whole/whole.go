@@ -108,6 +108,13 @@ func (a Int) Quotient(b Int) Int {
 	return Int{below: len(limbs) > 0, limbs: limbs}
 }
 
+// IsMultiple tells whether a is a multiple of b (0 is one of all; of 0 only 0
+// is).
+func (a Int) IsMultiple(b Int) bool {
+	_, left := divAmounts(a.limbs, b.limbs)
+	return len(left) == 0
+}
+
 // Decimal is a in decimal, with "-" ahead if it is below 0.
 func (a Int) Decimal() string {
 	if a.IsZero() {

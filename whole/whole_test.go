@@ -67,6 +67,12 @@ func TestReckoning(t *testing.T) {
 			if a.Is(b) != (x.Cmp(y) == 0) || a.IsSmaller(b) != (x.CmpAbs(y) < 0) {
 				t.Fatalf("%s and %s: Is %v, IsSmaller %v", x, y, a.Is(b), a.IsSmaller(b))
 			}
+			if got := a.Mul(b).IsMultiple(b); !got {
+				t.Fatalf("%s times %s is no multiple of it", x, y)
+			}
+			if got := a.IsMultiple(b); got != isMultiple(x, y) {
+				t.Fatalf("%s is a multiple of %s: %v", x, y, got)
+			}
 			if a.Decimal() != x.String() || b.Decimal() != y.String() {
 				t.Fatalf("%s or %s was changed", x, y)
 			}
@@ -83,6 +89,27 @@ func roundedDown(x *big.Int, y *big.Int) *big.Int {
 		quotient.Sub(quotient, big.NewInt(1))
 	}
 	return quotient
+}
+
+func isMultiple(x *big.Int, y *big.Int) bool {
+	if y.Sign() == 0 {
+		return x.Sign() == 0
+	}
+	return new(big.Int).Rem(x, y).Sign() == 0
+}
+
+func TestIsMultiple(t *testing.T) {
+	for _, c := range []struct {
+		a, b int64
+		want bool
+	}{
+		{0, 0, true}, {0, 5, true}, {0, -5, true}, {5, 0, false}, {-5, 0, false}, {1, 0, false}, {6, 3, true}, {-6, 3, true}, {6, -3, true}, {-6, -3, true}, {3, 6, false}, {7, 3, false}, {-7, 3, false}, {5, 1, true}, {5, -1, true},
+		{1 << 62, 1 << 31, true}, {1<<62 + 1, 1 << 31, false}, {math.MinInt64, math.MinInt64, true}, {math.MinInt64, 3, false},
+	} {
+		if got := FromInt64(c.a).IsMultiple(FromInt64(c.b)); got != c.want {
+			t.Errorf("%d is a multiple of %d: %v", c.a, c.b, got)
+		}
+	}
 }
 
 func TestQuotient(t *testing.T) {
