@@ -70,6 +70,7 @@ func TestReckoningLeavesTheOperands(t *testing.T) {
 	m.Flipped()
 	m.Diagonal()
 	m.Solve(of(3, 1, 5, 15, 24))
+	m.Reduce()
 	if !m.Is(of(3, 3, 0, 2, 3, 4, 5, 6, 7, 8, 9)) {
 		t.Error("an operand was changed")
 	}
@@ -196,5 +197,70 @@ func TestDiagonalStaysSmall(t *testing.T) {
 		if !one.Fits(4, 8*48) {
 			t.Errorf("of U, S, V and T the one at %d has grown too far", i)
 		}
+	}
+}
+
+func TestVolumeAndLean(t *testing.T) {
+	m := of(3, 3, 2, 0, 0, 3, 5, 0, -7, 11, 4)
+	for count, want := range []int64{1, 4, 100, 1600} {
+		if got := m.volume(count); !got.Is(whole.FromInt64(want)) {
+			t.Errorf("the volume of %d rows is %s, want %d", count, got.Decimal(), want)
+		}
+	}
+	// m(1, 0) = 3/2, m(2, 0) = -7/2, m(2, 1) = 11/5.
+	for _, c := range [][3]int64{{1, 0, 6}, {2, 0, -14}, {2, 1, 220}, {0, 0, 4}, {1, 1, 100}, {2, 2, 1600}} {
+		if got := m.lean(int(c[0]), int(c[1])); !got.Is(whole.FromInt64(c[2])) {
+			t.Errorf("row %d leans on row %d by %s, want %d", c[0], c[1], got.Decimal(), c[2])
+		}
+	}
+}
+
+func TestWithoutRow(t *testing.T) {
+	m := of(3, 2, 1, 2, 3, 4, 5, 6)
+	for row, want := range []Matrix{of(2, 2, 3, 4, 5, 6), of(2, 2, 1, 2, 5, 6), of(2, 2, 1, 2, 3, 4)} {
+		if !m.withoutRow(row).Is(want) {
+			t.Errorf("without row %d the others are not as they were", row)
+		}
+	}
+	if !of(2, 0).withoutRow(1).Is(of(1, 0)) || !of(1, 2, 3, 4).withoutRow(0).Is(of(0, 2)) {
+		t.Error("no rows, or no columns, are not as they should be")
+	}
+}
+
+// What is short already stays as it is: halves, and rows that are just long
+// enough, are no reason to change it.
+func TestShortRowsStay(t *testing.T) {
+	for _, m := range []Matrix{
+		of(0, 0), of(0, 3), of(1, 1, -7), of(2, 2, 2, 0, 1, 5), of(2, 2, 2, 0, -1, 5), of(2, 3, 2, 0, 0, 1, 1, 1), of(2, 3, 2, 0, 0, -1, 1, 1), of(2, 4, 2, 0, 0, 0, 0, 1, 1, 1),
+		of(3, 3, 2, 0, 0, 1, 2, 0, 1, -1, 3), of(4, 4, 1, 0, 0, 0, 0, -1, 0, 0, 0, 0, 1, 0, 0, 0, 0, 1),
+	} {
+		f := m.Reduce()
+		if !f.R.Is(m) || !f.T.Is(Unit(m.rows)) {
+			t.Errorf("short rows, %dx%d, have been changed", m.rows, m.cols)
+		}
+	}
+}
+
+func TestReduceOfManyRows(t *testing.T) {
+	m := Noughts(12, 4)
+	for i := range m.cells {
+		m.cells[i] = whole.FromInt64(int64(i*i*i*7919%1000003) - 500000)
+	}
+	f := m.Reduce()
+	if !f.T.Times(m).Is(f.R) || f.R.rows != 4 {
+		t.Errorf("R has %d rows, or T does not show that it is right", f.R.rows)
+	}
+	if !f.R.Echelon().Basis().Is(m.Echelon().Basis()) {
+		t.Error("R spans something else")
+	}
+}
+
+// Rows that hang together are lessened by each other, and not brought to their
+// row form first: that keeps T small, though it is free.
+func TestReduceStaysSmall(t *testing.T) {
+	const m, n = 1<<48 - 1, 1<<48 - 59
+	f := of(4, 3, m, n, 3, n-7, m-2, -m, m-4, 11, n-9, -m+8, n, m-6).Reduce()
+	if !f.T.Fits(4, 4*48) || !f.R.Fits(4, 8) {
+		t.Error("T or R has grown too far")
 	}
 }

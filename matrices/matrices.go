@@ -98,6 +98,3 @@ func (s *Store) Rank(h int) (int, api.Errno) {
 	}
 	return m.Echelon().Rank, api.OK
 }
-
-// Reduce makes a basis of short rows (P13).
-func (s *Store) Reduce(h int) ([]int, api.Errno) { return nil, api.OK }

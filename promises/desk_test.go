@@ -200,6 +200,19 @@ func (d desk) solve(g int, h int) []int {
 	return l
 }
 
+// reduce: the handles of R and T; looks at the list as echelon does.
+func (d desk) reduce(h int) []int {
+	d.t.Helper()
+	l, e := d.s.Reduce(h)
+	if e != api.OK || len(l) != 2 || cap(l) != 2 {
+		d.t.Fatalf("P2, P13: Reduce(%d) = %v (room for %d), %d", h, l, cap(l), e)
+	}
+	if l[0] < 0 || l[1] != l[0]+1 {
+		d.t.Fatalf("P4, P13: Reduce(%d) = %v: the handles are not in order", h, l)
+	}
+	return l
+}
+
 // The ones below: a refusal with the error e is due, and the answer that P1 says.
 
 func (d desk) refuseType(text string, e api.Errno) {
@@ -276,6 +289,13 @@ func (d desk) refuseSolve(g int, h int, e api.Errno) {
 	d.t.Helper()
 	if yes, l, got := d.s.Solve(g, h); yes || l != nil || got != e {
 		d.t.Errorf("P5, P12: Solve(%d, %d) = %v, %v, %d, want false, nil, %d", g, h, yes, l, got, e)
+	}
+}
+
+func (d desk) refuseReduce(h int, e api.Errno) {
+	d.t.Helper()
+	if l, got := d.s.Reduce(h); l != nil || got != e {
+		d.t.Errorf("P5, P13: Reduce(%d) = %v, %d, want nil, %d", h, l, got, e)
 	}
 }
 

@@ -33,6 +33,7 @@ func TestP1EveryCallEnds(t *testing.T) {
 				d.refuseSolve(g, h, api.ErrNoHandle)
 				d.refuseSolve(h, g, api.ErrNoHandle)
 			}
+			d.refuseReduce(g, api.ErrNoHandle)
 			d.refuseDiagonal(g, api.ErrNoHandle)
 			d.refuseIndex(g, api.ErrNoHandle)
 			d.refuseEchelon(g, api.ErrNoHandle)
@@ -98,6 +99,8 @@ func TestP1RefusedCallsChangeNothing(t *testing.T) {
 		d.refuseSolve(flat, last, api.ErrShape)
 		d.refuseSolve(great, last, api.ErrTooBig)
 		d.refuseSolve(last, last, api.ErrFull)
+		d.refuseReduce(last, api.ErrFull)
+		d.refuseReduce(great, api.ErrTooBig)
 	})
 	d.free(last)
 	if h := d.put("1x1: 1"); h != last+1 {
@@ -134,7 +137,7 @@ func script(d desk, seed int64, shows bool) string {
 // anyCall: a call at random; what it answered, the handles that came out, and
 // the error.
 func anyCall(d desk, source *rand.Rand, g int, h int) (string, []int, api.Errno) {
-	switch source.Intn(15) {
+	switch source.Intn(16) {
 	case 0, 1, 2:
 		rows, cols := source.Intn(3), 2-source.Intn(4)/3
 		k, e := d.s.Type(write(rows, cols, anyMatrix(source, rows, cols)))
@@ -168,6 +171,9 @@ func anyCall(d desk, source *rand.Rand, g int, h int) (string, []int, api.Errno)
 	case 13:
 		yes, l, e := d.s.Solve(g, h)
 		return fmt.Sprint("Solve ", yes), l, e
+	case 14:
+		l, e := d.s.Reduce(h)
+		return "Reduce", l, e
 	}
 	k, e := d.s.Sum(g, h)
 	return "Sum", listed(k), e

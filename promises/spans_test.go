@@ -450,7 +450,11 @@ func TestP4HandlesInWhateverCall(t *testing.T) {
 		for _, k := range d.solve(a, right) {
 			take("Solve", k)
 		}
-		for h := next - 18; h < next; h++ {
+		d.refuseReduce(-1, api.ErrNoHandle)
+		for _, k := range d.reduce(a) {
+			take("Reduce", k)
+		}
+		for h := next - 20; h < next; h++ {
 			d.free(h)
 		}
 	}

@@ -230,3 +230,47 @@ func (a table) diagonalFault() string {
 	}
 	return ""
 }
+
+// dot: the sum of the products of entries.
+func dot(a []*big.Rat, b []*big.Rat) *big.Rat {
+	sum := new(big.Rat)
+	for i := range a {
+		sum.Add(sum, new(big.Rat).Mul(a[i], b[i]))
+	}
+	return sum
+}
+
+// shortFault: what P13 says of short rows that does not hold of a, or nothing.
+// It goes by the words of P13: r* and m are fractions.
+func (a table) shortFault() string {
+	half, stars := big.NewRat(1, 2), [][]*big.Rat{}
+	for i, row := range a.at {
+		whole, star := []*big.Rat{}, []*big.Rat{}
+		for _, v := range row {
+			whole = append(whole, new(big.Rat).SetInt(v))
+			star = append(star, new(big.Rat).SetInt(v))
+		}
+		last := new(big.Rat)
+		for k, q := range stars {
+			last = new(big.Rat).Quo(dot(whole, q), dot(q, q))
+			if new(big.Rat).Abs(last).Cmp(half) > 0 {
+				return fmt.Sprintf("m of the rows %d and %d is %s", i, k, last)
+			}
+			for c := range star {
+				star[c].Sub(star[c], new(big.Rat).Mul(last, q[c]))
+			}
+		}
+		if dot(star, star).Sign() == 0 {
+			return fmt.Sprintf("row %d is a sum of fractions of those ahead", i)
+		}
+		if i > 0 {
+			least := new(big.Rat).Sub(big.NewRat(3, 4), new(big.Rat).Mul(last, last))
+			least.Mul(least, dot(stars[i-1], stars[i-1]))
+			if dot(star, star).Cmp(least) < 0 {
+				return fmt.Sprintf("row %d has %s, less than %s", i, dot(star, star), least)
+			}
+		}
+		stars = append(stars, star)
+	}
+	return ""
+}

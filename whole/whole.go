@@ -108,6 +108,21 @@ func (a Int) Quotient(b Int) Int {
 	return Int{below: len(limbs) > 0, limbs: limbs}
 }
 
+// Nearest is the whole number nearest to a divided by b; of two that are as
+// near, the smaller in amount (0, if b is 0).
+func (a Int) Nearest(b Int) Int {
+	if b.IsZero() {
+		return Int{}
+	}
+	down := a.Quotient(b)
+	left := a.Sub(down.Mul(b))
+	twice := left.Add(left)
+	if b.IsSmaller(twice) || (down.IsBelow() && twice.Is(b)) {
+		return down.Add(FromInt64(1))
+	}
+	return down
+}
+
 // IsMultiple tells whether a is a multiple of b (0 is one of all; of 0 only 0
 // is).
 func (a Int) IsMultiple(b Int) bool {

@@ -56,6 +56,7 @@ func TestReckoning(t *testing.T) {
 				{"-", a.Sub(b), new(big.Int).Sub(x, y)},
 				{"*", a.Mul(b), new(big.Int).Mul(x, y)},
 				{"/", a.Quotient(b), roundedDown(x, y)},
+				{"to the nearest /", a.Nearest(b), nearest(x, y)},
 			} {
 				if c.got.Decimal() != c.want.String() {
 					t.Fatalf("%s %s %s = %s, want %s", x, c.name, y, c.got.Decimal(), c.want)
@@ -91,6 +92,23 @@ func roundedDown(x *big.Int, y *big.Int) *big.Int {
 	return quotient
 }
 
+// nearest: by fractions, both neighbours tried, the one nearer to 0 first.
+func nearest(x *big.Int, y *big.Int) *big.Int {
+	if y.Sign() == 0 {
+		return big.NewInt(0)
+	}
+	near := new(big.Int).Quo(x, y)
+	far := new(big.Int).Add(near, big.NewInt(int64(x.Sign()*y.Sign())))
+	off := func(v *big.Int) *big.Rat {
+		gap := new(big.Rat).Sub(new(big.Rat).SetFrac(x, y), new(big.Rat).SetInt(v))
+		return gap.Abs(gap)
+	}
+	if off(far).Cmp(off(near)) < 0 {
+		return far
+	}
+	return near
+}
+
 func isMultiple(x *big.Int, y *big.Int) bool {
 	if y.Sign() == 0 {
 		return x.Sign() == 0
@@ -124,6 +142,20 @@ func TestQuotient(t *testing.T) {
 	}
 }
 
+func TestNearest(t *testing.T) {
+	for _, c := range [][3]int64{
+		{0, 5, 0}, {0, -5, 0}, {5, 0, 0}, {-5, 0, 0}, {0, 0, 0}, {7, 1, 7}, {-7, 1, -7}, {7, -1, -7}, {6, 3, 2}, {-6, 3, -2}, {6, -3, -2}, {-6, -3, 2},
+		{1, 3, 0}, {2, 3, 1}, {-1, 3, 0}, {-2, 3, -1}, {1, -3, 0}, {2, -3, -1}, {-2, -3, 1}, {4, 3, 1}, {5, 3, 2}, {-4, 3, -1}, {-5, 3, -2},
+		// Halves.
+		{1, 2, 0}, {-1, 2, 0}, {1, -2, 0}, {-1, -2, 0}, {3, 2, 1}, {-3, 2, -1}, {3, -2, -1}, {-3, -2, 1}, {5, 2, 2}, {-5, 2, -2}, {9, 6, 1}, {-9, 6, -1},
+		{math.MinInt64, 1, math.MinInt64}, {1 << 62, math.MinInt64, 0}, {1<<62 + 1, math.MinInt64, -1}, {1<<62 - 1, math.MinInt64, 0}, {math.MinInt64, math.MinInt64, 1},
+	} {
+		if got := FromInt64(c[0]).Nearest(FromInt64(c[1])); !got.Is(FromInt64(c[2])) {
+			t.Errorf("%d by %d, to the nearest, = %s, want %d", c[0], c[1], got.Decimal(), c[2])
+		}
+	}
+}
+
 func TestIsBelow(t *testing.T) {
 	for _, v := range []int64{0, 1, -1, math.MaxInt64, math.MinInt64} {
 		if FromInt64(v).IsBelow() != (v < 0) {
@@ -142,7 +174,7 @@ func TestFromInt64(t *testing.T) {
 
 func TestZeroValue(t *testing.T) {
 	zero := Int{}
-	for _, a := range []Int{zero, zero.Neg(), zero.Add(zero), FromInt64(5).Sub(FromInt64(5)), FromInt64(-5).Add(FromInt64(5)), FromInt64(-5).Mul(zero), FromDigits("0").Neg(), zero.Quotient(FromInt64(-5)), FromInt64(-5).Quotient(zero), FromInt64(5).Quotient(FromInt64(9))} {
+	for _, a := range []Int{zero, zero.Neg(), zero.Add(zero), FromInt64(5).Sub(FromInt64(5)), FromInt64(-5).Add(FromInt64(5)), FromInt64(-5).Mul(zero), FromDigits("0").Neg(), zero.Quotient(FromInt64(-5)), FromInt64(-5).Quotient(zero), FromInt64(5).Quotient(FromInt64(9)), FromInt64(-4).Nearest(FromInt64(9)), FromInt64(-5).Nearest(zero), zero.Nearest(FromInt64(-5))} {
 		if !a.Is(zero) || a.IsBelow() || !a.IsZero() || a.Decimal() != "0" || a.Bits() != 0 {
 			t.Errorf("nought is %q with %d bits", a.Decimal(), a.Bits())
 		}
